@@ -51,6 +51,20 @@ func copyTree(n impl.Node) impl.Node {
 	return n
 }
 
+// wipe makes a tree zero, the spare room of its lists too, and tells where two
+// lists, of this tree or of those that were seen ahead, share memory.
+func wipe(t *testing.T, seen map[*impl.Node]int, n *impl.Node) {
+	t.Helper()
+	if seen[n]++; seen[n] > 1 {
+		t.Fatal("two lists share memory")
+	}
+	kids := n.Kids[:cap(n.Kids)]
+	for i := range kids {
+		wipe(t, seen, &kids[i])
+	}
+	*n = impl.Node{}
+}
+
 func wantTree(t *testing.T, text string, want impl.Node) {
 	t.Helper()
 	got, fault := impl.Parse(text)
@@ -882,19 +896,7 @@ func TestTreesKeepNothing(t *testing.T) {
 	const text = "var x; array a[3]; x = a[1] + len(a); if x < 1 { skip; } else { stop; }"
 	first, _ := impl.Parse(text)
 	want := copyTree(first)
-	seen := map[*impl.Node]int{}
-	var wipe func(n *impl.Node)
-	wipe = func(n *impl.Node) {
-		if seen[n]++; seen[n] > 1 {
-			t.Fatal("two lists share memory")
-		}
-		kids := n.Kids[:cap(n.Kids)]
-		for i := range kids {
-			wipe(&kids[i])
-		}
-		*n = impl.Node{}
-	}
-	wipe(&first)
+	wipe(t, map[*impl.Node]int{}, &first)
 	wantTree(t, text, want)
 	wantNoTree(t, text+"!", impl.ErrWord, len(text))
 	wantNoTree(t, text+"1", impl.ErrForm, len(text))
